@@ -1029,17 +1029,26 @@ func TestReadBlockWithBytesAdded(t *testing.T) {
 	}
 }
 
+// joined returns each beginning of s with each end of more behind it, but neither of the two themselves.
+func joined(s string, more string) []string {
+	var list []string
+	for i := range len(s) + 1 {
+		for j := range len(more) + 1 {
+			if whole := s[:i] + more[j:]; whole != s && whole != more {
+				list = append(list, whole)
+			}
+		}
+	}
+	return list
+}
+
 func TestReadBlockOfPartsPutTogether(t *testing.T) {
 	made := 0
 	for _, first := range smallBlocks() {
 		for _, second := range smallBlocks() {
-			s, more := blockText(first), blockText(second)
-			for i := range len(s) + 1 {
-				for j := range len(more) + 1 {
-					whole := s[:i] + more[j:]
-					if whole != s && whole != more && checkPerhapsBlock(t, "parts put together", whole) {
-						made++
-					}
+			for _, whole := range joined(blockText(first), blockText(second)) {
+				if checkPerhapsBlock(t, "parts put together", whole) {
+					made++
 				}
 			}
 		}
