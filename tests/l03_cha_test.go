@@ -72,6 +72,15 @@ func plainStream(key string, counter int, nonce string, text string) string {
 	return string(out)
 }
 
+// plainNonce is a kind, four zero bytes and a number of seven bytes, the highest first; for valid arguments only.
+func plainNonce(kind int, n int) string {
+	nonce := []byte{byte(kind), 0, 0, 0, 0}
+	for shift := 48; shift >= 0; shift -= 8 {
+		nonce = append(nonce, byte(n>>shift))
+	}
+	return string(nonce)
+}
+
 // chaText returns a text of this length in which the pieces of 64 bytes differ from each other.
 func chaText(length int) string {
 	b := make([]byte, length)

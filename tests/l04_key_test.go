@@ -483,8 +483,8 @@ func TestKeyResultsDoNotFollowTheArgument(t *testing.T) {
 
 // plainWrap follows the document's text, for valid arguments only.
 func plainWrap(master string, n int, key string) string {
-	hidden := plainStream(master, 0, "\x01\x00\x00\x00\x00"+impl.Fixed(n, 7), key)
-	return impl.Fixed(plainCrc(hidden), 4) + hidden
+	hidden := plainStream(master, 0, plainNonce(1, n), key)
+	return plainSummed(hidden)
 }
 
 // wrapKeys lists masters and keys, and wrapNumbers numbers, that Wrap accepts.

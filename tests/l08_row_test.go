@@ -550,14 +550,7 @@ func plainSeal(key string, boot int, seq int, l []impl.Op) string {
 	return plainStream(key, 0, plainRowNonce(boot, seq), spellingOf(l).text())
 }
 
-func plainRowNonce(boot int, seq int) string {
-	nonce := []byte{3, 0, 0, 0, 0}
-	n := boot*1000000 + seq
-	for shift := 48; shift >= 0; shift -= 8 {
-		nonce = append(nonce, byte(n>>shift))
-	}
-	return string(nonce)
-}
+func plainRowNonce(boot int, seq int) string { return plainNonce(3, boot*1000000+seq) }
 
 type rowPlace struct{ boot, seq int }
 
