@@ -36,13 +36,18 @@ func plainEntOk(e impl.Ent) bool {
 	return len(e.Key) >= 1 && len(e.Key) <= 10 && e.Seq >= 0 && e.Seq <= seqLimit && len(e.Val) <= 16 && (!e.Del || e.Val == "")
 }
 
-func plainMemOk(l []impl.Ent) bool {
+// plainInOrder tells whether entries are valid, whatever their number.
+func plainInOrder(l []impl.Ent) bool {
 	for i, e := range l {
 		if !plainEntOk(e) || i > 0 && !plainAhead(l[i-1], e) {
 			return false
 		}
 	}
-	return len(l) <= memLimit
+	return true
+}
+
+func plainMemOk(l []impl.Ent) bool {
+	return plainInOrder(l) && len(l) <= memLimit
 }
 
 // plainOrder returns entries in order, whatever their order was.
@@ -632,19 +637,26 @@ func thrownEnts(throw func(below int) int, keys []string, count int, seqs int) [
 	return ents
 }
 
-func TestThrownEntries(t *testing.T) {
-	throw := dice(11)
-	for _, c := range []struct {
-		keys  []string
-		count int
-		seqs  int
-	}{
+// thrownKind tells which entries are thrown.
+type thrownKind struct {
+	keys  []string
+	count int
+	seqs  int
+}
+
+func thrownKinds() []thrownKind {
+	return []thrownKind{
 		{[]string{"k"}, 60, 70},
 		{[]string{"a", "a\x00"}, 60, 40},
 		{allStrings("\x00a\xff", 2)[1:], 60, 12},
 		{numbered(60), 60, 3},
 		{append(allStrings("ab", 3)[1:], strings.Repeat("b", 10)), 33, seqLimit + 1},
-	} {
+	}
+}
+
+func TestThrownEntries(t *testing.T) {
+	throw := dice(11)
+	for _, c := range thrownKinds() {
 		for range 4 {
 			written := thrownEnts(throw, c.keys, c.count, c.seqs)
 			checkLookups(t, putAll(t, written), written)
